@@ -10,6 +10,7 @@ import (
 
 	"cardcase/api"
 	"cardcase/figure"
+	"cardcase/sample"
 )
 
 // numbers are ints of every length, both signs, and those around each change of length.
@@ -44,21 +45,6 @@ func noise(count int, letters string) []string {
 		l[i] = string(b)
 	}
 	return l
-}
-
-// spelt are all texts of up to most of these letters.
-func spelt(letters string, most int) []string {
-	all, last := []string{""}, []string{""}
-	for range most {
-		var next []string
-		for _, s := range last {
-			for i := range len(letters) {
-				next = append(next, s+letters[i:i+1])
-			}
-		}
-		all, last = append(all, next...), next
-	}
-	return all
 }
 
 // 1.1: Text.
@@ -160,7 +146,7 @@ func readWords(s string) (int, api.Errno) {
 
 // 1.1: Read of many texts, right ones and wrong ones.
 func TestReadMany(t *testing.T) {
-	for _, s := range append(spelt("0129a-", 4), noise(20000, "0123456789")...) {
+	for _, s := range append(sample.Texts("0129a-", 4), noise(20000, "0123456789")...) {
 		n, e := figure.Read(s)
 		if wantN, wantE := readWords(s); n != wantN || e != wantE {
 			t.Errorf("Read(%q): %d and %v, not %d and %v", s, n, e, wantN, wantE)
@@ -375,7 +361,7 @@ func TestReadOfText(t *testing.T) {
 
 // 1.4: Read takes nothing that Text would not write.
 func TestReadTakesTextAlone(t *testing.T) {
-	for _, s := range append(spelt("0129-+ a", 4), noise(20000, "0123456789")...) {
+	for _, s := range append(sample.Texts("0129-+ a", 4), noise(20000, "0123456789")...) {
 		if n, e := figure.Read(s); e == api.OK && figure.Text(n) != s {
 			t.Errorf("Read(%q): %d, which is written %q", s, n, figure.Text(n))
 		}
