@@ -22,15 +22,6 @@ const edges = "\x00\x08\x09\x0a\x0b\x0d\x1f\x20\x21\x3c\x3d\x3e\x7e\x7f\x80\xff"
 // letters are what stands for a byte that is not plain.
 func letters(b byte) string { return fmt.Sprintf("=%02X", b) }
 
-// any256 are all bytes, as texts of one.
-func any256() []string {
-	var l []string
-	for b := range 256 {
-		l = append(l, string([]byte{byte(b)}))
-	}
-	return l
-}
-
 // mixed are texts of pieces one behind the other, up to most of them, that are the same at each run.
 func mixed(count, most int, pieces []string) []string {
 	r := rand.New(rand.NewSource(6))
@@ -46,8 +37,8 @@ func mixed(count, most int, pieces []string) []string {
 // texts are those that are encoded: all of one and of two bytes, all short ones of bytes at the edges, longer ones.
 func texts() []string {
 	l := append(sample.Texts(edges, 3), sample.Texts("a \t=\x00", 6)...)
-	l = append(l, sample.Texts(strings.Join(any256(), ""), 2)...)
-	l = append(l, mixed(3000, 60, any256())...)
+	l = append(l, sample.Texts(strings.Join(sample.Bytes(), ""), 2)...)
+	l = append(l, mixed(3000, 60, sample.Bytes())...)
 	l = append(l, mixed(3000, 60, strings.Split("ab \t=\xff\x00", ""))...)
 	for n := range 220 {
 		l = append(l, strings.Repeat("a", n), strings.Repeat("=", n), strings.Repeat(" ", n))
@@ -292,7 +283,7 @@ func TestSoftNotEncoded(t *testing.T) {
 // 4.2: Soft takes just what Encode writes, of many texts.
 func TestSoftTakesEncodedAlone(t *testing.T) {
 	l := mixed(20000, 8, []string{"a", "0", " ", "\t", "=3D", "=00", "=20", "=09", "=FF", "=41", "=3d", "=\r\n", "=", "\xff"})
-	for _, b := range any256() {
+	for _, b := range sample.Bytes() {
 		l = append(l, b, b+"a", "a"+b, letters(b[0]), letters(b[0])+"a", "=3D"+letters(b[0]), strings.ToLower(letters(b[0])))
 	}
 	l = append(l, mixed(20000, 30, []string{"a", "0", " ", "\t", "=3D", "=00", "=FF", "=C3=A9"})...)
@@ -364,12 +355,12 @@ func TestDecodeErrors(t *testing.T) {
 
 // 4.2: a mark with each two bytes behind it, and with each one; each byte alone.
 func TestDecodeEachMark(t *testing.T) {
-	for _, a := range any256() {
+	for _, a := range sample.Bytes() {
 		want, e := decodeWords(a)
 		decoded(t, a, want, e)
 		want, e = decodeWords("=" + a)
 		decoded(t, "="+a, want, e)
-		for _, b := range any256() {
+		for _, b := range sample.Bytes() {
 			want, e := decodeWords("=" + a + b)
 			decoded(t, "="+a+b, want, e)
 		}
@@ -382,7 +373,7 @@ func TestDecodeMany(t *testing.T) {
 	l = append(l, mixed(20000, 10, []string{"a", "Z", " ", "\t", "=3D", "=3d", "=00", "=\r\n", "=", "=4", "\r", "\n", "\x7f", "\xff"})...)
 	l = append(l, mixed(20000, 30, []string{"a", "Z", " ", "\t", "=3D", "=3d", "=00", "=fF", "=\r\n"})...)
 	right, wrong := 0, 0
-	for _, s := range append(l, mixed(3000, 10, any256())...) {
+	for _, s := range append(l, mixed(3000, 10, sample.Bytes())...) {
 		want, e := decodeWords(s)
 		decoded(t, s, want, e)
 		if e == api.OK {
@@ -406,8 +397,8 @@ func TestDecodeOfEncode(t *testing.T) {
 
 // 4.3: also of what Soft made of that, with any width.
 func TestDecodeOfSoft(t *testing.T) {
-	l := append(mixed(300, 300, any256()), mixed(300, 300, strings.Split("ab \t=", ""))...)
-	for _, s := range append(l, "", " ", strings.Join(any256(), ""), strings.Repeat("=", 500), strings.Repeat("a", 500)) {
+	l := append(mixed(300, 300, sample.Bytes()), mixed(300, 300, strings.Split("ab \t=", ""))...)
+	for _, s := range append(l, "", " ", strings.Join(sample.Bytes(), ""), strings.Repeat("=", 500), strings.Repeat("a", 500)) {
 		for width := 4; width <= 200; width++ {
 			soft, e := quoted.Soft(quoted.Encode(s), width)
 			if e != api.OK {
@@ -420,7 +411,7 @@ func TestDecodeOfSoft(t *testing.T) {
 
 // P1: calls end, and none panics, at long texts, too; what is asked twice is answered the same.
 func TestCallsEnd(t *testing.T) {
-	for _, c := range append(any256(), "=3D", "=\r\n", "a=", "=4") {
+	for _, c := range append(sample.Bytes(), "=3D", "=\r\n", "a=", "=4") {
 		s := strings.Repeat(c, 1<<15)
 		once := quoted.Encode(s)
 		if once != quoted.Encode(s) || quoted.Plain(s) != (once == s) {

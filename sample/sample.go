@@ -15,3 +15,23 @@ func Texts(letters string, most int) []string {
 	}
 	return all
 }
+
+// Bytes are all bytes, as texts of one.
+func Bytes() []string {
+	var all []string
+	for b := range 256 {
+		all = append(all, string([]byte{byte(b)}))
+	}
+	return all
+}
+
+// Bits are a text's bits in writing, the highest of each byte first.
+func Bits(s string) string {
+	var out []byte
+	for i := range len(s) {
+		for place := 7; place >= 0; place-- {
+			out = append(out, '0'+s[i]>>place&1)
+		}
+	}
+	return string(out)
+}

@@ -19,3 +19,25 @@ func TestTexts(t *testing.T) {
 		t.Errorf("none at most: %q", got)
 	}
 }
+
+// Each byte is there, once, in order.
+func TestBytes(t *testing.T) {
+	all := sample.Bytes()
+	if len(all) != 256 {
+		t.Errorf("%d bytes", len(all))
+	}
+	for n, b := range all {
+		if len(b) != 1 || int(b[0]) != n {
+			t.Errorf("byte %d: %q", n, b)
+		}
+	}
+}
+
+// Eight bits a byte, noughts ahead, too.
+func TestBits(t *testing.T) {
+	for s, want := range map[string]string{"": "", "\x00": "00000000", "\x01": "00000001", "\x80": "10000000", "\xff": "11111111", "a\x12": "0110000100010010"} {
+		if got := sample.Bits(s); got != want {
+			t.Errorf("Bits(%q): %s, not %s", s, got, want)
+		}
+	}
+}

@@ -21,15 +21,6 @@ const alphabet = "ABCDEFGHIJKLMNOPQRSTUVWXYZabcdefghijklmnopqrstuvwxyz0123456789
 // blanks are the bytes that Decode passes over.
 const blanks = " \t\r\n"
 
-// any256 are all bytes, as texts of one.
-func any256() []string {
-	var l []string
-	for b := range 256 {
-		l = append(l, string([]byte{byte(b)}))
-	}
-	return l
-}
-
 // mixed are texts of pieces one behind the other, up to most of them, that are the same at each run.
 func mixed(count, most int, pieces []string) []string {
 	r := rand.New(rand.NewSource(5))
@@ -45,26 +36,17 @@ func mixed(count, most int, pieces []string) []string {
 // texts are those that are encoded: all of one and of two bytes, all short ones of bytes at the edges, longer ones of every size.
 func texts() []string {
 	l := append(sample.Texts("\x00\xff\x01\x80", 5), sample.Texts("a=\n", 6)...)
-	l = append(l, sample.Texts(strings.Join(any256(), ""), 2)...)
-	l = append(l, mixed(3000, 60, any256())...)
+	l = append(l, sample.Texts(strings.Join(sample.Bytes(), ""), 2)...)
+	l = append(l, mixed(3000, 60, sample.Bytes())...)
 	for n := range 100 {
 		l = append(l, strings.Repeat("a", n), strings.Repeat("\x00", n), strings.Repeat("\xff", n))
 	}
 	return l
 }
 
-// bitsOf are a text's bits, the highest of each byte first.
-func bitsOf(s string) string {
-	bits := ""
-	for i := range len(s) {
-		bits += fmt.Sprintf("%08b", s[i])
-	}
-	return bits
-}
-
 // encodeWords is 5.1's Encode said once more, by bits in writing.
 func encodeWords(s string) string {
-	bits := bitsOf(s)
+	bits := sample.Bits(s)
 	for len(bits)%6 != 0 {
 		bits += "0"
 	}
@@ -195,7 +177,7 @@ func TestDecode(t *testing.T) {
 
 // 5.1: every letter of 0 to 63, at each of the four places, and no other byte than those, = and what is passed over.
 func TestDecodeEachByte(t *testing.T) {
-	for _, b := range any256() {
+	for _, b := range sample.Bytes() {
 		for _, row := range []string{"%AAA", "A%AA", "AA%A", "AAA%", "%A==", "A%==", "%AA=", "A%A=", "AA%=", "AA=%", "AA%", "%", "A%", "AAA%AAAA", "AAAA%", "AA==%", "AAA=%", "%%%%", "%AAAA%"} {
 			s := strings.ReplaceAll(row, "%", b)
 			want, e := decodeWords(s)
@@ -291,7 +273,7 @@ func TestDecodeMany(t *testing.T) {
 		l = append(l, s+[]string{"", "YQ==", "YW E=", "YQ=", "YR==", "YWF=", "Y Q = =\r\n", "YQ==\n!"}[i%8])
 	}
 	count := map[api.Errno]int{}
-	for _, s := range append(l, mixed(3000, 10, any256())...) {
+	for _, s := range append(l, mixed(3000, 10, sample.Bytes())...) {
 		want, e := decodeWords(s)
 		decoded(t, s, want, e)
 		count[e]++
@@ -329,7 +311,7 @@ func TestLines(t *testing.T) {
 
 // 5.2: texts of every size, in lines of every width.
 func TestLinesSizes(t *testing.T) {
-	all := strings.Join(any256(), "")
+	all := strings.Join(sample.Bytes(), "")
 	for size := range len(all) + 1 {
 		for width := -2; width <= size+2; width++ {
 			lines := slices.Collect(sixbit.Lines(all[:size], width))
@@ -394,7 +376,7 @@ func TestDecodeOfEncode(t *testing.T) {
 
 // 5.3: also in lines, of any width, whatever of what is passed over stands between them.
 func TestDecodeOfLines(t *testing.T) {
-	l := append(mixed(60, 90, any256()), "", "a", "aa", "aaa", "aaaa", blanks, strings.Join(any256(), ""), strings.Repeat("\xff", 100))
+	l := append(mixed(60, 90, sample.Bytes()), "", "a", "aa", "aaa", "aaaa", blanks, strings.Join(sample.Bytes(), ""), strings.Repeat("\xff", 100))
 	for _, s := range l {
 		letters := sixbit.Encode(s)
 		for width := -1; width <= len(letters)+1; width++ {
@@ -409,7 +391,7 @@ func TestDecodeOfLines(t *testing.T) {
 
 // P1: calls end, and none panics, at long texts, too; what is asked twice is answered the same.
 func TestCallsEnd(t *testing.T) {
-	for _, c := range append(any256(), "YWFh", "YQ==", "A\r\n") {
+	for _, c := range append(sample.Bytes(), "YWFh", "YQ==", "A\r\n") {
 		s := strings.Repeat(c, 1<<14)
 		once := sixbit.Encode(s)
 		if once != sixbit.Encode(s) {
