@@ -36,23 +36,9 @@ func division(s string) uint16 {
 	return left
 }
 
-// noise is texts of any bytes, of up to most of them, that are the same at each run.
-func noise(count, most int) []string {
-	r := rand.New(rand.NewSource(4))
-	l := make([]string, count)
-	for i := range l {
-		b := make([]byte, r.Intn(most+1))
-		for j := range b {
-			b[j] = byte(r.Intn(256))
-		}
-		l[i] = string(b)
-	}
-	return l
-}
-
 // texts are all of one and of two bytes, short ones of bytes at the edges, longer ones of any.
 func texts() []string {
-	l := append(sample.Texts("\x00\x01\x7f\x80\xff", 5), noise(3000, 80)...)
+	l := append(sample.Texts("\x00\x01\x7f\x80\xff", 5), sample.Mixed(3000, 80, sample.Bytes())...)
 	for n := range 1 << 16 {
 		l = append(l, string([]byte{byte(n >> 8), byte(n)}))
 	}
@@ -132,7 +118,7 @@ func TestSealMany(t *testing.T) {
 
 // 3.1: a sealed text may be sealed again.
 func TestSealTwice(t *testing.T) {
-	for _, s := range append(sample.Texts("\x00a\x80\xff", 3), noise(300, 60)...) {
+	for _, s := range append(sample.Texts("\x00a\x80\xff", 3), sample.Mixed(300, 60, sample.Bytes())...) {
 		once := check.Seal(s)
 		twice := check.Seal(once)
 		if len(twice) != len(s)+4 || twice[:len(once)] != once {
@@ -262,7 +248,7 @@ func TestTurnedAll(t *testing.T) {
 
 // 3.2: one to sixteen bits in a row, all of them turned, at every place of longer texts.
 func TestTurnedRows(t *testing.T) {
-	for _, s := range append(noise(100, 70), strings.Repeat("\x00", 64), strings.Repeat("\xff", 64), "123456789") {
+	for _, s := range append(sample.Mixed(100, 70, sample.Bytes()), strings.Repeat("\x00", 64), strings.Repeat("\xff", 64), "123456789") {
 		sealed := check.Seal(s)
 		for place := range 8 * len(sealed) {
 			for size := 1; size <= 16; size++ {
@@ -275,7 +261,7 @@ func TestTurnedRows(t *testing.T) {
 // 3.2: what is turned at the first place, at the last one, and around the text's end, of texts of many lengths.
 func TestTurnedEdges(t *testing.T) {
 	r := rand.New(rand.NewSource(5))
-	for _, s := range append(noise(300, 300), strings.Repeat("z", api.MaxPlate), strings.Repeat("\x80", api.MaxVal)) {
+	for _, s := range append(sample.Mixed(300, 300, sample.Bytes()), strings.Repeat("z", api.MaxPlate), strings.Repeat("\x80", api.MaxVal)) {
 		sealed := check.Seal(s)
 		for range 30 {
 			pattern := uint16(r.Intn(1<<16)) | 0x8000

@@ -3,7 +3,6 @@ package quoted_test
 import (
 	"fmt"
 	"math"
-	"math/rand"
 	"regexp"
 	"strings"
 	"testing"
@@ -22,24 +21,12 @@ const edges = "\x00\x08\x09\x0a\x0b\x0d\x1f\x20\x21\x3c\x3d\x3e\x7e\x7f\x80\xff"
 // letters are what stands for a byte that is not plain.
 func letters(b byte) string { return fmt.Sprintf("=%02X", b) }
 
-// mixed are texts of pieces one behind the other, up to most of them, that are the same at each run.
-func mixed(count, most int, pieces []string) []string {
-	r := rand.New(rand.NewSource(6))
-	l := make([]string, count)
-	for i := range l {
-		for range r.Intn(most + 1) {
-			l[i] += pieces[r.Intn(len(pieces))]
-		}
-	}
-	return l
-}
-
 // texts are those that are encoded: all of one and of two bytes, all short ones of bytes at the edges, longer ones.
 func texts() []string {
 	l := append(sample.Texts(edges, 3), sample.Texts("a \t=\x00", 6)...)
 	l = append(l, sample.Texts(strings.Join(sample.Bytes(), ""), 2)...)
-	l = append(l, mixed(3000, 60, sample.Bytes())...)
-	l = append(l, mixed(3000, 60, strings.Split("ab \t=\xff\x00", ""))...)
+	l = append(l, sample.Mixed(3000, 60, sample.Bytes())...)
+	l = append(l, sample.Mixed(3000, 60, strings.Split("ab \t=\xff\x00", ""))...)
 	for n := range 220 {
 		l = append(l, strings.Repeat("a", n), strings.Repeat("=", n), strings.Repeat(" ", n))
 	}
@@ -282,11 +269,11 @@ func TestSoftNotEncoded(t *testing.T) {
 
 // 4.2: Soft takes just what Encode writes, of many texts.
 func TestSoftTakesEncodedAlone(t *testing.T) {
-	l := mixed(20000, 8, []string{"a", "0", " ", "\t", "=3D", "=00", "=20", "=09", "=FF", "=41", "=3d", "=\r\n", "=", "\xff"})
+	l := sample.Mixed(20000, 8, []string{"a", "0", " ", "\t", "=3D", "=00", "=20", "=09", "=FF", "=41", "=3d", "=\r\n", "=", "\xff"})
 	for _, b := range sample.Bytes() {
 		l = append(l, b, b+"a", "a"+b, letters(b[0]), letters(b[0])+"a", "=3D"+letters(b[0]), strings.ToLower(letters(b[0])))
 	}
-	l = append(l, mixed(20000, 30, []string{"a", "0", " ", "\t", "=3D", "=00", "=FF", "=C3=A9"})...)
+	l = append(l, sample.Mixed(20000, 30, []string{"a", "0", " ", "\t", "=3D", "=00", "=FF", "=C3=A9"})...)
 	right, wrong := 0, 0
 	for i, s := range append(l, sample.Texts("=0Dd \n", 6)...) {
 		width := 4 + i%197
@@ -370,10 +357,10 @@ func TestDecodeEachMark(t *testing.T) {
 // 4.2: Decode of many texts, right ones and wrong ones.
 func TestDecodeMany(t *testing.T) {
 	l := append(sample.Texts("=0aF\r\n ", 5), sample.Texts("=4g\r\n", 6)...)
-	l = append(l, mixed(20000, 10, []string{"a", "Z", " ", "\t", "=3D", "=3d", "=00", "=\r\n", "=", "=4", "\r", "\n", "\x7f", "\xff"})...)
-	l = append(l, mixed(20000, 30, []string{"a", "Z", " ", "\t", "=3D", "=3d", "=00", "=fF", "=\r\n"})...)
+	l = append(l, sample.Mixed(20000, 10, []string{"a", "Z", " ", "\t", "=3D", "=3d", "=00", "=\r\n", "=", "=4", "\r", "\n", "\x7f", "\xff"})...)
+	l = append(l, sample.Mixed(20000, 30, []string{"a", "Z", " ", "\t", "=3D", "=3d", "=00", "=fF", "=\r\n"})...)
 	right, wrong := 0, 0
-	for _, s := range append(l, mixed(3000, 10, sample.Bytes())...) {
+	for _, s := range append(l, sample.Mixed(3000, 10, sample.Bytes())...) {
 		want, e := decodeWords(s)
 		decoded(t, s, want, e)
 		if e == api.OK {
@@ -397,7 +384,7 @@ func TestDecodeOfEncode(t *testing.T) {
 
 // 4.3: also of what Soft made of that, with any width.
 func TestDecodeOfSoft(t *testing.T) {
-	l := append(mixed(300, 300, sample.Bytes()), mixed(300, 300, strings.Split("ab \t=", ""))...)
+	l := append(sample.Mixed(300, 300, sample.Bytes()), sample.Mixed(300, 300, strings.Split("ab \t=", ""))...)
 	for _, s := range append(l, "", " ", strings.Join(sample.Bytes(), ""), strings.Repeat("=", 500), strings.Repeat("a", 500)) {
 		for width := 4; width <= 200; width++ {
 			soft, e := quoted.Soft(quoted.Encode(s), width)

@@ -25,6 +25,25 @@ func Bytes() []string {
 	return all
 }
 
+// Mixed are so many texts, each of up to most of these pieces in a row; each call makes the same ones.
+func Mixed(count, most int, pieces []string) []string {
+	// The order needn't be hard to tell: it must only lead to as many texts of all kinds.
+	state := uint64(1)
+	below := func(end int) int {
+		state = state*6364136223846793005 + 1442695040888963407
+		return int((state >> 33) % uint64(end))
+	}
+	l := make([]string, count)
+	for i := range l {
+		var text []byte
+		for range below(most + 1) {
+			text = append(text, pieces[below(len(pieces))]...)
+		}
+		l[i] = string(text)
+	}
+	return l
+}
+
 // Bits are a text's bits in writing, the highest of each byte first.
 func Bits(s string) string {
 	var out []byte

@@ -33,6 +33,32 @@ func TestBytes(t *testing.T) {
 	}
 }
 
+// As many texts as are asked for, of all sizes up to the greatest, with each piece at each place; the same ones at each call.
+func TestMixed(t *testing.T) {
+	l := sample.Mixed(5000, 4, []string{"a", "bc", ""})
+	if len(l) != 5000 || !slices.Equal(l, sample.Mixed(5000, 4, []string{"a", "bc", ""})) {
+		t.Errorf("%d texts", len(l))
+	}
+	count := map[string]int{}
+	for _, s := range sample.Mixed(20000, 3, []string{"a", "b"}) {
+		count[s]++
+	}
+	for _, s := range sample.Texts("ab", 3) {
+		if wanted := 20000 / 4 >> len(s); count[s] < wanted*4/5 || count[s] > wanted*6/5 {
+			t.Errorf("%q %d times, not some %d", s, count[s], wanted)
+		}
+	}
+	if len(count) != 1+2+4+8 {
+		t.Errorf("%d kinds of texts", len(count))
+	}
+	if got := sample.Mixed(2, 0, []string{"a"}); !slices.Equal(got, []string{"", ""}) {
+		t.Errorf("none at most: %q", got)
+	}
+	if got := sample.Mixed(0, 9, []string{"a"}); len(got) != 0 {
+		t.Errorf("no texts: %q", got)
+	}
+}
+
 // Eight bits a byte, noughts ahead, too.
 func TestBits(t *testing.T) {
 	for s, want := range map[string]string{"": "", "\x00": "00000000", "\x01": "00000001", "\x80": "10000000", "\xff": "11111111", "a\x12": "0110000100010010"} {

@@ -4,7 +4,6 @@ import (
 	"encoding/base64"
 	"fmt"
 	"math"
-	"math/rand"
 	"regexp"
 	"slices"
 	"strings"
@@ -21,23 +20,11 @@ const alphabet = "ABCDEFGHIJKLMNOPQRSTUVWXYZabcdefghijklmnopqrstuvwxyz0123456789
 // blanks are the bytes that Decode passes over.
 const blanks = " \t\r\n"
 
-// mixed are texts of pieces one behind the other, up to most of them, that are the same at each run.
-func mixed(count, most int, pieces []string) []string {
-	r := rand.New(rand.NewSource(5))
-	l := make([]string, count)
-	for i := range l {
-		for range r.Intn(most + 1) {
-			l[i] += pieces[r.Intn(len(pieces))]
-		}
-	}
-	return l
-}
-
 // texts are those that are encoded: all of one and of two bytes, all short ones of bytes at the edges, longer ones of every size.
 func texts() []string {
 	l := append(sample.Texts("\x00\xff\x01\x80", 5), sample.Texts("a=\n", 6)...)
 	l = append(l, sample.Texts(strings.Join(sample.Bytes(), ""), 2)...)
-	l = append(l, mixed(3000, 60, sample.Bytes())...)
+	l = append(l, sample.Mixed(3000, 60, sample.Bytes())...)
 	for n := range 100 {
 		l = append(l, strings.Repeat("a", n), strings.Repeat("\x00", n), strings.Repeat("\xff", n))
 	}
@@ -267,13 +254,13 @@ func TestDecodeMissingBits(t *testing.T) {
 func TestDecodeMany(t *testing.T) {
 	l := append(sample.Texts("AR=! ", 7), sample.Texts("Aw=", 10)...)
 	l = append(l, sample.Texts("A=\n", 9)...)
-	l = append(l, mixed(20000, 10, []string{"AAAA", "YWFh", "YQ==", "YWE=", "YR==", "=", "A", "/", "\r\n", " ", "!", "\xff"})...)
-	l = append(l, mixed(20000, 20, append(strings.Split(alphabet, ""), strings.Split(blanks, "")...))...)
-	for i, s := range mixed(20000, 12, []string{"AAAA", "YW Fh", "++//", "\r\n", "\t", "z z0\n9"}) {
+	l = append(l, sample.Mixed(20000, 10, []string{"AAAA", "YWFh", "YQ==", "YWE=", "YR==", "=", "A", "/", "\r\n", " ", "!", "\xff"})...)
+	l = append(l, sample.Mixed(20000, 20, append(strings.Split(alphabet, ""), strings.Split(blanks, "")...))...)
+	for i, s := range sample.Mixed(20000, 12, []string{"AAAA", "YW Fh", "++//", "\r\n", "\t", "z z0\n9"}) {
 		l = append(l, s+[]string{"", "YQ==", "YW E=", "YQ=", "YR==", "YWF=", "Y Q = =\r\n", "YQ==\n!"}[i%8])
 	}
 	count := map[api.Errno]int{}
-	for _, s := range append(l, mixed(3000, 10, sample.Bytes())...) {
+	for _, s := range append(l, sample.Mixed(3000, 10, sample.Bytes())...) {
 		want, e := decodeWords(s)
 		decoded(t, s, want, e)
 		count[e]++
@@ -376,7 +363,7 @@ func TestDecodeOfEncode(t *testing.T) {
 
 // 5.3: also in lines, of any width, whatever of what is passed over stands between them.
 func TestDecodeOfLines(t *testing.T) {
-	l := append(mixed(60, 90, sample.Bytes()), "", "a", "aa", "aaa", "aaaa", blanks, strings.Join(sample.Bytes(), ""), strings.Repeat("\xff", 100))
+	l := append(sample.Mixed(60, 90, sample.Bytes()), "", "a", "aa", "aaa", "aaaa", blanks, strings.Join(sample.Bytes(), ""), strings.Repeat("\xff", 100))
 	for _, s := range l {
 		letters := sixbit.Encode(s)
 		for width := -1; width <= len(letters)+1; width++ {
