@@ -4,6 +4,7 @@ import (
 	"slices"
 	"testing"
 
+	"cardcase/api"
 	"cardcase/sample"
 )
 
@@ -64,6 +65,36 @@ func TestBits(t *testing.T) {
 	for s, want := range map[string]string{"": "", "\x00": "00000000", "\x01": "00000001", "\x80": "10000000", "\xff": "11111111", "a\x12": "0110000100010010"} {
 		if got := sample.Bits(s); got != want {
 			t.Errorf("Bits(%q): %s, not %s", s, got, want)
+		}
+	}
+}
+
+// However often one goes from cards to those right within them, there are some; each call's are apart.
+func TestRings(t *testing.T) {
+	if len(sample.Rings()) < 10 {
+		t.Errorf("%d cards", len(sample.Rings()))
+	}
+	for shape := range sample.Rings() {
+		// Some shapes of one call are within one another.
+		c := sample.Rings()[shape]
+		level := map[*api.Card]int{&c: 1}
+		for range 100 {
+			next := map[*api.Card]int{}
+			for held := range level {
+				for _, p := range held.Props {
+					for i := range p.Agent {
+						next[&p.Agent[i]]++
+					}
+				}
+			}
+			level = next
+		}
+		if len(level) == 0 {
+			t.Errorf("%s: no ring", shape)
+		}
+		clear(c.Props)
+		if again := sample.Rings()[shape]; len(again.Props) == 0 || again.Props[0].Name == "" {
+			t.Errorf("%s: two calls share a list", shape)
 		}
 	}
 }

@@ -7,6 +7,7 @@ import (
 	"testing"
 
 	"cardcase/api"
+	"cardcase/sample"
 	"cardcase/vcard"
 )
 
@@ -20,42 +21,6 @@ func deep(t *testing.T, what string, c api.Card, want int) {
 
 // within is a property, of a name, with cards.
 func within(name string, l ...api.Card) api.Prop { return api.Prop{Name: name, Agent: l} }
-
-// rings are cards that lie within themselves; each call makes new ones.
-func rings() map[string]api.Card {
-	itself := make([]api.Card, 1)
-	itself[0].Props = []api.Prop{{Name: "AGENT", Agent: itself}}
-
-	last := make([]api.Card, 3)
-	last[2].Props = []api.Prop{plain("A", "b"), {Name: "AGENT", Agent: last}}
-
-	one, other := make([]api.Card, 1), make([]api.Card, 2)
-	one[0].Props = []api.Prop{plain("FN", "a"), {Name: "AGENT", Agent: other}}
-	other[1].Props = []api.Prop{{Name: "AGENT", Agent: one}, plain("FN", "b")}
-
-	props := make([]api.Prop, 2)
-	props[0], props[1] = plain("FN", "a"), api.Prop{Name: "AGENT", Agent: []api.Card{{Props: props}}}
-
-	pieces := make([]api.Card, 3)
-	pieces[0].Props = []api.Prop{{Name: "AGENT", Agent: pieces[:2]}, {Name: "AGENT", Agent: pieces[1:]}}
-	pieces[1].Props = []api.Prop{{Name: "AGENT", Agent: pieces[:1]}, plain("A", "")}
-	pieces[2].Props = []api.Prop{{Name: "AGENT", Agent: pieces}}
-
-	all := make([][]api.Card, 30)
-	for i := range all {
-		all[i] = make([]api.Card, 1)
-	}
-	for _, l := range all {
-		for _, other := range all {
-			l[0].Props = append(l[0].Props, api.Prop{Name: "AGENT", Agent: other})
-		}
-	}
-	return map[string]api.Card{
-		"itself": itself[0], "itself, last": last[2], "two": one[0], "the other of two": other[1], "properties": {Props: props},
-		"pieces": pieces[0], "a piece": pieces[1], "the last piece": pieces[2], "each within each": all[3][0],
-		"behind others": card(plain("A", ""), agent(), agent(plain("B", ""), agent(within("AGENT", itself[0])))),
-	}
-}
 
 // 10.1: Deep.
 func TestDeep(t *testing.T) {
@@ -90,7 +55,7 @@ func TestDeep(t *testing.T) {
 	for _, c := range mixedCards(2000) {
 		deep(t, "a card", c, deepWords(c, 9))
 	}
-	for shape, c := range rings() {
+	for shape, c := range sample.Rings() {
 		deep(t, shape, c, 9)
 	}
 }
@@ -108,10 +73,10 @@ func refused(t *testing.T, what string, c api.Card) {
 
 // P1 and 10.1: cards that lie within themselves: every call ends.
 func TestRings(t *testing.T) {
-	for shape, c := range rings() {
+	for shape, c := range sample.Rings() {
 		refused(t, shape, c)
 		refused(t, "a card with "+shape, card(plain("FN", "a"), within("AGENT", c)))
-		for _, other := range rings() {
+		for _, other := range sample.Rings() {
 			if vcard.Same(c, other) || vcard.Same(other, c) {
 				t.Errorf("Same of %s: true", shape)
 			}
