@@ -46,7 +46,7 @@ var (
 
 // wrongTexts are texts of no contact that is right.
 func wrongTexts() []string {
-	a := text(contactOf("FN", "", "a", "TEL", "HOME;WORK", "1"))
+	a := text(sample.Contact("FN", "", "a", "TEL", "HOME;WORK", "1"))
 	return []string{
 		// no card
 		"", "a", "\x00", "\xff", " ", "\r\n", "BEGIN:VCARD", "FN:a", longest, a[:len(a)-9], a[1:], a + a, a + "x", "\xef\xbb\xbf" + a,
@@ -84,18 +84,18 @@ func TestRight(t *testing.T) {
 	}{
 		{api.Contact{}, api.Card{}, ""},
 		{api.Contact{Fields: []api.Field{}}, api.Card{}, ""},
-		{contactOf("FN", "", "a"), cardOf("FN:a"), "FN:a\r\n"},
-		{contactOf("FN", "", "a", "TEL", "HOME;WORK", "1"), cardOf("FN:a", "TEL;HOME;WORK:1"), "FN:a\r\nTEL;HOME;WORK:1\r\n"},
-		{contactOf("FN", "", "a", "FN", "", "b", "FN", "A", "", "FN", "G:", ""), cardOf("FN:a", "FN:b", "FN;A:", "G.FN:"), "FN:a\r\nFN:b\r\nFN;A:\r\nG.FN:\r\n"},
-		{contactOf("N", "G:TYPE=b;X", "Ex;Ann"), cardOf("G.N;TYPE=b;X:Ex;Ann"), "G.N;TYPE=b;X:Ex;Ann\r\n"},
-		{contactOf("N", "1;A=b;C=D;E", "\xff"), api.Card{Props: []api.Prop{valued("N;1;A=b;C=D;E", "\xff")}}, "N;1;A=b;C=D;E;ENCODING=BASE64: /w==\r\n"},
-		{contactOf("N", "", "a\r\n\x00"), api.Card{Props: []api.Prop{valued("N", "a\r\n\x00")}}, "N;CHARSET=UTF-8;ENCODING=QUOTED-PRINTABLE:a=0D=0A=00\r\n"},
-		{contactOf("AGENT", "", print(api.Card{})), api.Card{Props: []api.Prop{agent("AGENT")}}, "AGENT:\r\nBEGIN:VCARD\r\nVERSION:2.1\r\nEND:VCARD\r\n"},
-		{contactOf("AGENT", "G:X", text(contactOf("FN", "", "b", "TEL", "HOME", "1")), "FN", "", "a"), api.Card{Props: []api.Prop{agent("G.AGENT;X", line("FN:b"), line("TEL;HOME:1")), line("FN:a")}}, "G.AGENT;X:\r\nBEGIN:VCARD\r\nVERSION:2.1\r\nFN:b\r\nTEL;HOME:1\r\nEND:VCARD\r\nFN:a\r\n"},
-		{contactOf("AGENT", "", agentText(2)), api.Card{Props: []api.Prop{agent("AGENT", agent("AGENT", line("FN:a")))}}, "AGENT:\r\nBEGIN:VCARD\r\nVERSION:2.1\r\nAGENT:\r\nBEGIN:VCARD\r\nVERSION:2.1\r\nFN:a\r\nEND:VCARD\r\nEND:VCARD\r\n"},
+		{sample.Contact("FN", "", "a"), cardOf("FN:a"), "FN:a\r\n"},
+		{sample.Contact("FN", "", "a", "TEL", "HOME;WORK", "1"), cardOf("FN:a", "TEL;HOME;WORK:1"), "FN:a\r\nTEL;HOME;WORK:1\r\n"},
+		{sample.Contact("FN", "", "a", "FN", "", "b", "FN", "A", "", "FN", "G:", ""), cardOf("FN:a", "FN:b", "FN;A:", "G.FN:"), "FN:a\r\nFN:b\r\nFN;A:\r\nG.FN:\r\n"},
+		{sample.Contact("N", "G:TYPE=b;X", "Ex;Ann"), cardOf("G.N;TYPE=b;X:Ex;Ann"), "G.N;TYPE=b;X:Ex;Ann\r\n"},
+		{sample.Contact("N", "1;A=b;C=D;E", "\xff"), api.Card{Props: []api.Prop{valued("N;1;A=b;C=D;E", "\xff")}}, "N;1;A=b;C=D;E;ENCODING=BASE64: /w==\r\n"},
+		{sample.Contact("N", "", "a\r\n\x00"), api.Card{Props: []api.Prop{valued("N", "a\r\n\x00")}}, "N;CHARSET=UTF-8;ENCODING=QUOTED-PRINTABLE:a=0D=0A=00\r\n"},
+		{sample.Contact("AGENT", "", print(api.Card{})), api.Card{Props: []api.Prop{agent("AGENT")}}, "AGENT:\r\nBEGIN:VCARD\r\nVERSION:2.1\r\nEND:VCARD\r\n"},
+		{sample.Contact("AGENT", "G:X", text(sample.Contact("FN", "", "b", "TEL", "HOME", "1")), "FN", "", "a"), api.Card{Props: []api.Prop{agent("G.AGENT;X", line("FN:b"), line("TEL;HOME:1")), line("FN:a")}}, "G.AGENT;X:\r\nBEGIN:VCARD\r\nVERSION:2.1\r\nFN:b\r\nTEL;HOME:1\r\nEND:VCARD\r\nFN:a\r\n"},
+		{sample.Contact("AGENT", "", agentText(2)), api.Card{Props: []api.Prop{agent("AGENT", agent("AGENT", line("FN:a")))}}, "AGENT:\r\nBEGIN:VCARD\r\nVERSION:2.1\r\nAGENT:\r\nBEGIN:VCARD\r\nVERSION:2.1\r\nFN:a\r\nEND:VCARD\r\nEND:VCARD\r\n"},
 		// another name with such a text: it is a text as all others
-		{contactOf("NOTE", "", "BEGIN:VCARD"), cardOf("NOTE:BEGIN:VCARD"), "NOTE:BEGIN:VCARD\r\n"},
-		{contactOf("NOTE", "", agentText(1)), api.Card{Props: []api.Prop{valued("NOTE", agentText(1))}}, "NOTE;CHARSET=UTF-8;ENCODING=QUOTED-PRINTABLE:BEGIN:VCARD=0D=0AVERSION:2.1=0D=0AFN:a=0D=0AEND:VCARD=0D=0A\r\n"},
+		{sample.Contact("NOTE", "", "BEGIN:VCARD"), cardOf("NOTE:BEGIN:VCARD"), "NOTE:BEGIN:VCARD\r\n"},
+		{sample.Contact("NOTE", "", agentText(1)), api.Card{Props: []api.Prop{valued("NOTE", agentText(1))}}, "NOTE;CHARSET=UTF-8;ENCODING=QUOTED-PRINTABLE:BEGIN:VCARD=0D=0AVERSION:2.1=0D=0AFN:a=0D=0AEND:VCARD=0D=0A\r\n"},
 	} {
 		card, e := contact.Card(one.c)
 		if e != api.OK || !vcard.Same(card, one.card) {
@@ -247,18 +247,18 @@ func TestCheckOrder(t *testing.T) {
 			}
 		}
 	}
-	wrong(t, contactOf("FN", "", "a", "FN", "", "a"), api.ErrOrder)
-	wrong(t, contactOf("TEL", "", "a", "FN", "", "a"), api.ErrOrder)
-	wrong(t, contactOf("FN", "B", "a", "FN", "A", "b"), api.ErrOrder)
-	wrong(t, contactOf("FN", "", "b", "FN", "", "a"), api.ErrOrder)
-	wrong(t, contactOf("FN", "", "ab", "FN", "", "a"), api.ErrOrder)
-	wrong(t, contactOf("FN", "", "\xff", "FN", "", "a"), api.ErrOrder)
-	wrong(t, contactOf("FN", "", "a", "TEL", "", "1", "FN", "", "b"), api.ErrOrder)
-	wrong(t, contactOf("AGENT", "", "x", "AGENT", "", "x"), api.ErrKind)
-	wrong(t, contactOf("AGENT", "", agentText(1), "AGENT", "", agentText(1)), api.ErrOrder)
-	wrong(t, contactOf("FN", "", "a", "AGENT", "", "x"), api.ErrOrder)
-	wrong(t, contactOf("FN", "", "a", "FN", "", "a", "FN", "", "a"), api.ErrOrder)
-	right(t, contactOf("FN", "", "", "FN", "", "\x00", "FN", "", "a", "FN", "", "\x80", "FN", "", "\xff", "FN", "A", "", "FN", "A;B", "", "FN", "B", "", "FN-1", "", "", "FN0", "", ""))
+	wrong(t, sample.Contact("FN", "", "a", "FN", "", "a"), api.ErrOrder)
+	wrong(t, sample.Contact("TEL", "", "a", "FN", "", "a"), api.ErrOrder)
+	wrong(t, sample.Contact("FN", "B", "a", "FN", "A", "b"), api.ErrOrder)
+	wrong(t, sample.Contact("FN", "", "b", "FN", "", "a"), api.ErrOrder)
+	wrong(t, sample.Contact("FN", "", "ab", "FN", "", "a"), api.ErrOrder)
+	wrong(t, sample.Contact("FN", "", "\xff", "FN", "", "a"), api.ErrOrder)
+	wrong(t, sample.Contact("FN", "", "a", "TEL", "", "1", "FN", "", "b"), api.ErrOrder)
+	wrong(t, sample.Contact("AGENT", "", "x", "AGENT", "", "x"), api.ErrKind)
+	wrong(t, sample.Contact("AGENT", "", agentText(1), "AGENT", "", agentText(1)), api.ErrOrder)
+	wrong(t, sample.Contact("FN", "", "a", "AGENT", "", "x"), api.ErrOrder)
+	wrong(t, sample.Contact("FN", "", "a", "FN", "", "a", "FN", "", "a"), api.ErrOrder)
+	right(t, sample.Contact("FN", "", "", "FN", "", "\x00", "FN", "", "a", "FN", "", "\x80", "FN", "", "\xff", "FN", "A", "", "FN", "A;B", "", "FN", "B", "", "FN-1", "", "", "FN0", "", ""))
 }
 
 // 11.2: of several errors of one field the one that is named first.
@@ -329,7 +329,7 @@ func TestCheckCounts(t *testing.T) {
 // labelIs holds Check of a field with a label, and of one of AGENT, against whether it is one.
 func labelIs(t *testing.T, label string, is bool) {
 	t.Helper()
-	for _, c := range []api.Contact{contactOf("N", label, "v"), contactOf("AGENT", label, agentText(1)), contactOf("A", "", "", "B", label, "", "C", "", "")} {
+	for _, c := range []api.Contact{sample.Contact("N", label, "v"), sample.Contact("AGENT", label, agentText(1)), sample.Contact("A", "", "", "B", label, "", "C", "", "")} {
 		if is {
 			right(t, c)
 		} else {
@@ -353,7 +353,7 @@ func TestCheckLabelBytes(t *testing.T) {
 	held := func(label string) {
 		t.Helper()
 		_, is := labelledWords(label)
-		c := contactOf("N", label, "v")
+		c := sample.Contact("N", label, "v")
 		if e := contact.Check(c); (e == api.OK) != is || !is && e != api.ErrField {
 			t.Errorf("Check of the label %q: %v", label, e)
 		}
@@ -389,7 +389,7 @@ func TestCheckLabelsMany(t *testing.T) {
 	for _, label := range l {
 		_, is := labelledWords(label)
 		count[is]++
-		if e := contact.Check(contactOf("N", label, "")); (e == api.OK) != is || !is && e != api.ErrField {
+		if e := contact.Check(sample.Contact("N", label, "")); (e == api.OK) != is || !is && e != api.ErrField {
 			t.Errorf("Check of the label %q: %v", label, e)
 		}
 	}
@@ -403,7 +403,7 @@ func TestCheckTexts(t *testing.T) {
 	for _, size := range []int{0, 1, 599, 600, 601, 602, 1200, 2401, 1 << 20} {
 		for _, b := range []string{"v", " ", "=", "\x00", "\n", "\r", "\x7f", "\xff", "\xc3\xa9"} {
 			for _, name := range []string{"A", "AGENTS", "AGEN", "X-AGENT"} {
-				c := contactOf(name, "", strings.Repeat(b, size)[:size])
+				c := sample.Contact(name, "", strings.Repeat(b, size)[:size])
 				if size <= mostText {
 					right(t, c)
 				} else {
@@ -413,7 +413,7 @@ func TestCheckTexts(t *testing.T) {
 		}
 	}
 	for size := 345; size <= 900; size++ {
-		c := contactOf("AGENT", "", textOfSize(size))
+		c := sample.Contact("AGENT", "", textOfSize(size))
 		if size <= mostText {
 			right(t, c)
 		} else {
@@ -422,7 +422,7 @@ func TestCheckTexts(t *testing.T) {
 	}
 	for _, b := range sample.Bytes() {
 		for _, s := range []string{b, b + b, "a" + b, b + "a", "\xc3" + b, "\r\n" + b} {
-			right(t, contactOf("A", "", s, "B", "X", s))
+			right(t, sample.Contact("A", "", s, "B", "X", s))
 		}
 	}
 }
@@ -433,34 +433,34 @@ func TestCheckAgents(t *testing.T) {
 		if isOwn(s) || len(s) > mostText {
 			t.Errorf("text %d: %q", i, s)
 		}
-		wrong(t, contactOf("AGENT", "", s), api.ErrKind)
-		wrong(t, contactOf("AGENT", "", agentText(1), "AGENT", "G:X", s, "FN", "", "a"), api.ErrKind)
-		wrong(t, contactOf("AGENT", "", s, "AGENT", ":", "", "FN", "", long), api.ErrKind)
+		wrong(t, sample.Contact("AGENT", "", s), api.ErrKind)
+		wrong(t, sample.Contact("AGENT", "", agentText(1), "AGENT", "G:X", s, "FN", "", "a"), api.ErrKind)
+		wrong(t, sample.Contact("AGENT", "", s, "AGENT", ":", "", "FN", "", long), api.ErrKind)
 		for _, name := range []string{"AGENTS", "X-AGENT", "NOTE", "FN"} {
-			right(t, contactOf(name, "", s))
+			right(t, sample.Contact(name, "", s))
 		}
 	}
-	for _, c := range []api.Contact{{}, contactOf("FN", "", "a"), contactOf("FN", "", "\xff"), contactOf("FN", "", "\r\n"), contactOf("TEL", "G:A;B", "1", "TEL", "G:A;B", "2"), contactOf("NOTE", "", strings.Repeat("word ", 90)), contactOf("AGENT", "X=y", agentText(1), "FN", "", "")} {
-		right(t, contactOf("AGENT", "", text(c)))
-		right(t, contactOf("AGENT", "", text(c), "AGENT", "A", text(c), "NOTE", "", text(c)))
+	for _, c := range []api.Contact{{}, sample.Contact("FN", "", "a"), sample.Contact("FN", "", "\xff"), sample.Contact("FN", "", "\r\n"), sample.Contact("TEL", "G:A;B", "1", "TEL", "G:A;B", "2"), sample.Contact("NOTE", "", strings.Repeat("word ", 90)), sample.Contact("AGENT", "X=y", agentText(1), "FN", "", "")} {
+		right(t, sample.Contact("AGENT", "", text(c)))
+		right(t, sample.Contact("AGENT", "", text(c), "AGENT", "A", text(c), "NOTE", "", text(c)))
 	}
 }
 
 // 11.2: contacts within one another, as deep as may be, and deeper.
 func TestCheckDeep(t *testing.T) {
-	right(t, contactOf("FN", "", "a"))
-	right(t, contactOf("AGENT", "", agentText(1)))
-	right(t, contactOf("AGENT", "", agentText(2)))
-	wrong(t, contactOf("AGENT", "", agentText(3)), api.ErrDeep)
-	wrong(t, contactOf("AGENT", "", print4()), api.ErrKind)
+	right(t, sample.Contact("FN", "", "a"))
+	right(t, sample.Contact("AGENT", "", agentText(1)))
+	right(t, sample.Contact("AGENT", "", agentText(2)))
+	wrong(t, sample.Contact("AGENT", "", agentText(3)), api.ErrDeep)
+	wrong(t, sample.Contact("AGENT", "", print4()), api.ErrKind)
 	// behind what is wrong with a field, ahead of what else is wrong with the card
-	wrong(t, contactOf("AGENT", "", agentText(3), "FN", ":", ""), api.ErrField)
-	wrong(t, contactOf("AGENT", "", agentText(3), "FN", "", "", "END", "", ""), api.ErrOrder)
-	wrong(t, contactOf("AB_", "", "", "AGENT", "", agentText(3)), api.ErrDeep)
-	wrong(t, contactOf("AGENT", "", agentText(3), "END", "", ""), api.ErrDeep)
-	wrong(t, contactOf("AGENT", "", agentText(2), "END", "", ""), api.ErrName)
-	wrong(t, contactOf("AGENT", "", agentText(2), "AGENT", "A", agentText(3), "AGENT", "B", agentText(1)), api.ErrDeep)
-	big := contactOf("AGENT", "", agentText(3))
+	wrong(t, sample.Contact("AGENT", "", agentText(3), "FN", ":", ""), api.ErrField)
+	wrong(t, sample.Contact("AGENT", "", agentText(3), "FN", "", "", "END", "", ""), api.ErrOrder)
+	wrong(t, sample.Contact("AB_", "", "", "AGENT", "", agentText(3)), api.ErrDeep)
+	wrong(t, sample.Contact("AGENT", "", agentText(3), "END", "", ""), api.ErrDeep)
+	wrong(t, sample.Contact("AGENT", "", agentText(2), "END", "", ""), api.ErrName)
+	wrong(t, sample.Contact("AGENT", "", agentText(2), "AGENT", "A", agentText(3), "AGENT", "B", agentText(1)), api.ErrDeep)
+	big := sample.Contact("AGENT", "", agentText(3))
 	for i := range 7 {
 		big.Fields = append(big.Fields, api.Field{Name: fmt.Sprintf("N%d", i), Text: longest})
 	}
@@ -471,15 +471,15 @@ func TestCheckDeep(t *testing.T) {
 // 11.2: names, which are the card's.
 func TestCheckNames(t *testing.T) {
 	for _, name := range []string{"", "fn", "1", "-", "A B", "A.B", "A:", "A;B", "\xc3\x89", "\xff", "A\x00", "A\r\n", "BEGIN", "END", "VERSION", "Agent", "AGENT ", strings.Repeat("A", 33), strings.Repeat("A", 1<<20)} {
-		wrong(t, contactOf(name, "", "v"), api.ErrName)
-		wrong(t, contactOf(name, "G:A;B", agentText(3)), api.ErrName)
-		wrong(t, contactOf(name, "G", longest), api.ErrName)
-		wrong(t, contactOf(name, "g", longest), api.ErrField)
-		wrong(t, contactOf(name, "G", long), api.ErrLong)
+		wrong(t, sample.Contact(name, "", "v"), api.ErrName)
+		wrong(t, sample.Contact(name, "G:A;B", agentText(3)), api.ErrName)
+		wrong(t, sample.Contact(name, "G", longest), api.ErrName)
+		wrong(t, sample.Contact(name, "g", longest), api.ErrField)
+		wrong(t, sample.Contact(name, "G", long), api.ErrLong)
 	}
 	for _, name := range []string{"A", "A-", "A1", "BEGINS", "EN", "VERSION2", "AGENTS", strings.Repeat("A", 32)} {
-		right(t, contactOf(name, "", "v"))
-		right(t, contactOf(name, "END:VERSION", ""))
+		right(t, sample.Contact(name, "", "v"))
+		right(t, sample.Contact(name, "END:VERSION", ""))
 	}
 }
 
@@ -488,7 +488,7 @@ func TestCheckWhole(t *testing.T) {
 	for _, b := range []string{"v", "v ", "=", "\xc3\xa9", "\xff"} {
 		count := map[api.Errno]int{}
 		for size := range mostText + 1 {
-			c := contactOf("A", "", strings.Repeat(b, size)[:size])
+			c := sample.Contact("A", "", strings.Repeat(b, size)[:size])
 			for _, name := range []string{"B", "C", "D", "E", "F"} {
 				c.Fields = append(c.Fields, api.Field{Name: name, Text: longest})
 			}
@@ -500,9 +500,9 @@ func TestCheckWhole(t *testing.T) {
 		}
 	}
 	// 37 bytes of the card's own, and 4 of each field's
-	six := contactOf("A", "", longest, "B", "", longest, "C", "", longest, "D", "", longest, "E", "", longest, "F", "", longest)
+	six := sample.Contact("A", "", longest, "B", "", longest, "C", "", longest, "D", "", longest, "E", "", longest, "F", "", longest)
 	for size := range 401 {
-		c := copyOf(six)
+		c := sample.Copy(six)
 		c.Fields = append(c.Fields, api.Field{Name: "G", Text: longest[:size]})
 		if 37+6*604+4+size <= mostCard {
 			right(t, c)
@@ -525,7 +525,7 @@ func TestCheckWhole(t *testing.T) {
 // pool are fields, more of them right than wrong; those of each name stand together.
 func pool() []api.Field {
 	return []api.Field{
-		{Name: "AGENT", Text: agentText(1)}, {Name: "AGENT", Text: agentText(2)}, {Name: "AGENT", Label: "G:X", Text: agentText(1)}, {Name: "AGENT", Label: "X", Text: textOfSize(mostText)}, {Name: "AGENT", Label: "Y", Text: text(contactOf("TEL", "A;B", "1"))},
+		{Name: "AGENT", Text: agentText(1)}, {Name: "AGENT", Text: agentText(2)}, {Name: "AGENT", Label: "G:X", Text: agentText(1)}, {Name: "AGENT", Label: "X", Text: textOfSize(mostText)}, {Name: "AGENT", Label: "Y", Text: text(sample.Contact("TEL", "A;B", "1"))},
 		{Name: "FN", Text: "a"}, {Name: "FN", Text: "b"}, {Name: "FN", Label: "A", Text: "a"}, {Name: "N", Text: "Ex;Ann"}, {Name: "NOTE", Text: "\xff\x00"}, {Name: "NOTE", Text: "\r\n"}, {Name: "NOTE", Text: agentText(2)}, {Name: "ORG", Label: "G:", Text: "\xc3\xa9"},
 		{Name: "TEL", Text: "1"}, {Name: "TEL", Label: "HOME", Text: "1"}, {Name: "TEL", Label: "HOME;WORK", Text: "1"}, {Name: "TEL", Label: "G:HOME;X=y", Text: "1"}, {Name: "TEL", Label: "A;B;C;D", Text: strings.Repeat("word ", 20)}, {Name: "X-Y", Label: "A=b;A=c"}, {Name: "Z", Text: longest},
 		{Name: "AGENT", Text: agentText(3)}, {Name: "AGENT", Text: "x"}, {Name: "FN", Text: long}, {Name: "TEL", Label: "WORK;HOME"}, {Name: "N_"}, {Name: "END"},
@@ -564,7 +564,7 @@ func TestCheckMany(t *testing.T) {
 
 // What is handed in stays as it is, behind the list's end, too; and what Card hands out is nobody else's, and no two lists of it are one.
 func TestCardListsOfTheirOwn(t *testing.T) {
-	fields := contactOf("AGENT", "A", text(contactOf("AGENT", "A;B", text(contactOf("TEL", "A;B;C", "1")), "TEL", "A;B;C", "1")), "AGENT", "B", agentText(1), "TEL", "A;B;C", "1", "TEL", "A;B;C", "2").Fields
+	fields := sample.Contact("AGENT", "A", text(sample.Contact("AGENT", "A;B", text(sample.Contact("TEL", "A;B;C", "1")), "TEL", "A;B;C", "1")), "AGENT", "B", agentText(1), "TEL", "A;B;C", "1", "TEL", "A;B;C", "2").Fields
 	c := api.Contact{Fields: append(make([]api.Field, 0, 16), fields...)}
 	want := cardWords(c)
 	right(t, c)

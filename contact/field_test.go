@@ -89,7 +89,7 @@ func same(t *testing.T, a, b api.Contact, want bool) {
 func changed(c api.Contact) []api.Contact {
 	var l []api.Contact
 	change := func(how func(c *api.Contact)) {
-		other := copyOf(c)
+		other := sample.Copy(c)
 		how(&other)
 		l = append(l, other)
 	}
@@ -110,7 +110,7 @@ func changed(c api.Contact) []api.Contact {
 
 // 11.1: Same.
 func TestSame(t *testing.T) {
-	full := contactOf("FN", "", "a", "FN", "", "b", "TEL", "HOME;WORK", "1", "TEL", "G:", "1", "", "", "x", "\xff", "\x00", "\n")
+	full := sample.Contact("FN", "", "a", "FN", "", "b", "TEL", "HOME;WORK", "1", "TEL", "G:", "1", "", "", "x", "\xff", "\x00", "\n")
 	all := append(changed(full), full)
 	if len(all) != 7+6*4+15+1 {
 		t.Errorf("%d contacts", len(all))
@@ -121,20 +121,20 @@ func TestSame(t *testing.T) {
 				t.Errorf("Same(%q, %q): %v", a, b, got)
 			}
 		}
-		same(t, a, copyOf(a), true)
+		same(t, a, sample.Copy(a), true)
 	}
 	same(t, api.Contact{}, api.Contact{}, true)
 	same(t, api.Contact{}, api.Contact{Fields: []api.Field{}}, true)
 	same(t, api.Contact{}, api.Contact{Fields: []api.Field{{}}}, false)
 	same(t, api.Contact{Fields: full.Fields[:0]}, api.Contact{}, true)
 	same(t, api.Contact{Fields: full.Fields[:3]}, full, false)
-	same(t, contactOf("A", "", "b"), contactOf("a", "", "b"), false)
-	same(t, contactOf("A", "", "b"), contactOf("", "A", "b"), false)
-	same(t, contactOf("A", "", "b"), contactOf("A", "b", ""), false)
-	same(t, contactOf("TEL", "A;B", ""), contactOf("TEL", "B;A", ""), false)
+	same(t, sample.Contact("A", "", "b"), sample.Contact("a", "", "b"), false)
+	same(t, sample.Contact("A", "", "b"), sample.Contact("", "A", "b"), false)
+	same(t, sample.Contact("A", "", "b"), sample.Contact("A", "b", ""), false)
+	same(t, sample.Contact("TEL", "A;B", ""), sample.Contact("TEL", "B;A", ""), false)
 	many := api.Contact{Fields: slices.Repeat(full.Fields, 1<<14)}
-	same(t, many, copyOf(many), true)
-	other := copyOf(many)
+	same(t, many, sample.Copy(many), true)
+	other := sample.Copy(many)
 	other.Fields[len(other.Fields)-1].Text += "!"
 	same(t, many, other, false)
 }
@@ -149,7 +149,7 @@ func asked(t *testing.T, c api.Contact, name, want string, wantOk bool) {
 
 // 11.1: Get.
 func TestGet(t *testing.T) {
-	c := contactOf("FN", "", "a", "TEL", "HOME", "1", "TEL", "WORK", "2", "TITLE", "", "", "TITLE", "X", "t")
+	c := sample.Contact("FN", "", "a", "TEL", "HOME", "1", "TEL", "WORK", "2", "TITLE", "", "", "TITLE", "X", "t")
 	asked(t, c, "FN", "a", true)
 	asked(t, c, "TEL", "1", true)
 	asked(t, c, "TITLE", "", true)
@@ -162,15 +162,15 @@ func TestGet(t *testing.T) {
 		asked(t, api.Contact{Fields: c.Fields[:0]}, name, "", false)
 	}
 	// of any contact, whatever is wrong with it: the first one stays the first
-	asked(t, contactOf("B", "", "2", "A", "Z", "9", "A", "B", "1", "A", "", "0"), "A", "9", true)
-	asked(t, contactOf("B", "", "2", "", "", "x", "", "", "y"), "", "x", true)
-	asked(t, contactOf("a b", "\x00", "\xff", "A", "", "1"), "a b", "\xff", true)
-	asked(t, contactOf("\xff", "", "", "\xff", "", "1"), "\xff", "", true)
+	asked(t, sample.Contact("B", "", "2", "A", "Z", "9", "A", "B", "1", "A", "", "0"), "A", "9", true)
+	asked(t, sample.Contact("B", "", "2", "", "", "x", "", "", "y"), "", "x", true)
+	asked(t, sample.Contact("a b", "\x00", "\xff", "A", "", "1"), "a b", "\xff", true)
+	asked(t, sample.Contact("\xff", "", "", "\xff", "", "1"), "\xff", "", true)
 	many := api.Contact{Fields: slices.Repeat(c.Fields, 1<<14)}
 	many.Fields = append(many.Fields, api.Field{Name: "Z", Text: "last"})
 	asked(t, many, "Z", "last", true)
 	asked(t, many, "Y", "", false)
 	for _, b := range sample.Bytes() {
-		asked(t, contactOf("A", "", "1", b, "", b+b, b, "", "2"), b, map[bool]string{true: "1", false: b + b}[b == "A"], true)
+		asked(t, sample.Contact("A", "", "1", b, "", b+b, b, "", "2"), b, map[bool]string{true: "1", false: b + b}[b == "A"], true)
 	}
 }

@@ -21,35 +21,35 @@ func TestOf(t *testing.T) {
 	}{
 		{api.Card{}, api.Contact{}},
 		{api.Card{Props: []api.Prop{}}, api.Contact{}},
-		{cardOf("TEL;WORK;HOME:1", "FN:a"), contactOf("FN", "", "a", "TEL", "HOME;WORK", "1")},
-		{cardOf("FN:"), contactOf("FN", "", "")},
+		{cardOf("TEL;WORK;HOME:1", "FN:a"), sample.Contact("FN", "", "a", "TEL", "HOME;WORK", "1")},
+		{cardOf("FN:"), sample.Contact("FN", "", "")},
 		// a group alone, parameters alone, both, neither
-		{cardOf("G.TEL:1"), contactOf("TEL", "G:", "1")},
-		{cardOf("TEL;A:1"), contactOf("TEL", "A", "1")},
-		{cardOf("TEL;X=y:1"), contactOf("TEL", "X=y", "1")},
-		{cardOf("G.TEL;A:1"), contactOf("TEL", "G:A", "1")},
-		{cardOf("G.TEL;X=y;A:1"), contactOf("TEL", "G:A;X=y", "1")},
-		{cardOf("A.TEL:1", "TEL;A:1", "TEL:1", "A.TEL;A:1"), contactOf("TEL", "", "1", "TEL", "A", "1", "TEL", "A:", "1", "TEL", "A:A", "1")},
+		{cardOf("G.TEL:1"), sample.Contact("TEL", "G:", "1")},
+		{cardOf("TEL;A:1"), sample.Contact("TEL", "A", "1")},
+		{cardOf("TEL;X=y:1"), sample.Contact("TEL", "X=y", "1")},
+		{cardOf("G.TEL;A:1"), sample.Contact("TEL", "G:A", "1")},
+		{cardOf("G.TEL;X=y;A:1"), sample.Contact("TEL", "G:A;X=y", "1")},
+		{cardOf("A.TEL:1", "TEL;A:1", "TEL:1", "A.TEL;A:1"), sample.Contact("TEL", "", "1", "TEL", "A", "1", "TEL", "A:", "1", "TEL", "A:A", "1")},
 		// parameters in any order, and twice the same
-		{cardOf("N;B;A:", "N;A=b;A;A-B;A=B:", "N;10;9;1:"), contactOf("N", "1;10;9", "", "N", "A;A-B;A=B;A=b", "", "N", "A;B", "")},
-		{cardOf("N;A;A:"), contactOf("N", "A", "")},
-		{cardOf("N;A;A;A;A:"), contactOf("N", "A", "")},
-		{cardOf("N;B;A;B;A:"), contactOf("N", "A;B", "")},
-		{cardOf("N;X=a;X=b;X=a;X:"), contactOf("N", "X;X=a;X=b", "")},
-		{cardOf("N;X=a;X=A;X=a:"), contactOf("N", "X=A;X=a", "")},
-		{cardOf("G.N;~;!;0;a=~:"), contactOf("N", "G:!;0;A=~;~", "")},
+		{cardOf("N;B;A:", "N;A=b;A;A-B;A=B:", "N;10;9;1:"), sample.Contact("N", "1;10;9", "", "N", "A;A-B;A=B;A=b", "", "N", "A;B", "")},
+		{cardOf("N;A;A:"), sample.Contact("N", "A", "")},
+		{cardOf("N;A;A;A;A:"), sample.Contact("N", "A", "")},
+		{cardOf("N;B;A;B;A:"), sample.Contact("N", "A;B", "")},
+		{cardOf("N;X=a;X=b;X=a;X:"), sample.Contact("N", "X;X=a;X=b", "")},
+		{cardOf("N;X=a;X=A;X=a:"), sample.Contact("N", "X=A;X=a", "")},
+		{cardOf("G.N;~;!;0;a=~:"), sample.Contact("N", "G:!;0;A=~;~", "")},
 		// properties that give the same field
-		{cardOf("FN:a", "FN:a"), contactOf("FN", "", "a")},
-		{cardOf("FN:a", "TEL:1", "FN:a", "TEL:1", "FN:b"), contactOf("FN", "", "a", "FN", "", "b", "TEL", "", "1")},
-		{cardOf("TEL;A;B:1", "TEL;B;A:1", "TEL;B;A;B:1", "TEL;A:1"), contactOf("TEL", "A", "1", "TEL", "A;B", "1")},
-		{api.Card{Props: slices.Repeat(cardOf("G.TEL;B;A:1").Props, mostFields)}, contactOf("TEL", "G:A;B", "1")},
+		{cardOf("FN:a", "FN:a"), sample.Contact("FN", "", "a")},
+		{cardOf("FN:a", "TEL:1", "FN:a", "TEL:1", "FN:b"), sample.Contact("FN", "", "a", "FN", "", "b", "TEL", "", "1")},
+		{cardOf("TEL;A;B:1", "TEL;B;A:1", "TEL;B;A;B:1", "TEL;A:1"), sample.Contact("TEL", "A", "1", "TEL", "A;B", "1")},
+		{api.Card{Props: slices.Repeat(cardOf("G.TEL;B;A:1").Props, mostFields)}, sample.Contact("TEL", "G:A;B", "1")},
 		// in order
-		{cardOf("C:1", "B:2", "A:3", "B:1", "B;A:0", "A.B:", "AA:"), contactOf("A", "", "3", "AA", "", "", "B", "", "1", "B", "", "2", "B", "A", "0", "B", "A:", "", "C", "", "1")},
-		{api.Card{Props: []api.Prop{valued("N", "\xff"), valued("N", "a"), valued("N", "\x00"), valued("N", ""), valued("N", "\xc3\xa9")}}, contactOf("N", "", "", "N", "", "\x00", "N", "", "a", "N", "", "\xc3\xa9", "N", "", "\xff")},
+		{cardOf("C:1", "B:2", "A:3", "B:1", "B;A:0", "A.B:", "AA:"), sample.Contact("A", "", "3", "AA", "", "", "B", "", "1", "B", "", "2", "B", "A", "0", "B", "A:", "", "C", "", "1")},
+		{api.Card{Props: []api.Prop{valued("N", "\xff"), valued("N", "a"), valued("N", "\x00"), valued("N", ""), valued("N", "\xc3\xa9")}}, sample.Contact("N", "", "", "N", "", "\x00", "N", "", "a", "N", "", "\xc3\xa9", "N", "", "\xff")},
 		// Agents
-		{api.Card{Props: []api.Prop{line("FN:a"), agent("G.AGENT;B;A", line("TEL;WORK;HOME:1"), line("FN:b"))}}, contactOf("AGENT", "G:A;B", "BEGIN:VCARD\r\nVERSION:2.1\r\nFN:b\r\nTEL;HOME;WORK:1\r\nEND:VCARD\r\n", "FN", "", "a")},
-		{api.Card{Props: []api.Prop{agent("AGENT", agent("AGENT"), line("FN:b"), agent("AGENT"))}}, contactOf("AGENT", "", "BEGIN:VCARD\r\nVERSION:2.1\r\nAGENT:\r\nBEGIN:VCARD\r\nVERSION:2.1\r\nEND:VCARD\r\nFN:b\r\nEND:VCARD\r\n")},
-		{api.Card{Props: []api.Prop{agent("AGENT", line("FN:b"), line("FN:a")), agent("AGENT", line("FN:a"), line("FN:b"), line("FN:a")), agent("AGENT", line("FN:b"))}}, contactOf("AGENT", "", text(contactOf("FN", "", "a", "FN", "", "b")), "AGENT", "", text(contactOf("FN", "", "b")))},
+		{api.Card{Props: []api.Prop{line("FN:a"), agent("G.AGENT;B;A", line("TEL;WORK;HOME:1"), line("FN:b"))}}, sample.Contact("AGENT", "G:A;B", "BEGIN:VCARD\r\nVERSION:2.1\r\nFN:b\r\nTEL;HOME;WORK:1\r\nEND:VCARD\r\n", "FN", "", "a")},
+		{api.Card{Props: []api.Prop{agent("AGENT", agent("AGENT"), line("FN:b"), agent("AGENT"))}}, sample.Contact("AGENT", "", "BEGIN:VCARD\r\nVERSION:2.1\r\nAGENT:\r\nBEGIN:VCARD\r\nVERSION:2.1\r\nEND:VCARD\r\nFN:b\r\nEND:VCARD\r\n")},
+		{api.Card{Props: []api.Prop{agent("AGENT", line("FN:b"), line("FN:a")), agent("AGENT", line("FN:a"), line("FN:b"), line("FN:a")), agent("AGENT", line("FN:b"))}}, sample.Contact("AGENT", "", text(sample.Contact("FN", "", "a", "FN", "", "b")), "AGENT", "", text(sample.Contact("FN", "", "b")))},
 	} {
 		of(t, one.card, one.c)
 		right(t, one.c)
@@ -89,16 +89,16 @@ func TestOfFolded(t *testing.T) {
 		own := text(said)
 		within := api.Card{Props: []api.Prop{agent("AGENT", inner.Props...)}}
 		if len(own) <= mostText {
-			of(t, within, contactOf("AGENT", "", own))
+			of(t, within, sample.Contact("AGENT", "", own))
 		} else {
 			noneOf(t, within, api.ErrLong)
 		}
 		// and by less: three parameters more than need be
 		inner.Props[0].Params = line("P;ABCD;ABCD;ABCD;ABCD:").Params
-		own = text(contactOf("P", "ABCD", words(size)))
+		own = text(sample.Contact("P", "ABCD", words(size)))
 		within = api.Card{Props: []api.Prop{agent("AGENT", inner.Props...)}}
 		if len(own) <= mostText {
-			of(t, within, contactOf("AGENT", "", own))
+			of(t, within, sample.Contact("AGENT", "", own))
 		} else {
 			noneOf(t, within, api.ErrLong)
 		}
@@ -193,12 +193,12 @@ func TestOfAgents(t *testing.T) {
 		// of the text around it: a property's line and a card's own ones
 		around := len("AGENT:\r\n") + 37
 		if size <= mostText {
-			of(t, one, contactOf("AGENT", "G:X", textOfSize(size), "FN", "", "a"))
+			of(t, one, sample.Contact("AGENT", "G:X", textOfSize(size), "FN", "", "a"))
 		} else {
 			noneOf(t, one, api.ErrLong)
 		}
 		if size+around <= mostText {
-			of(t, two, contactOf("AGENT", "", text(contactOf("AGENT", "", textOfSize(size)))))
+			of(t, two, sample.Contact("AGENT", "", text(sample.Contact("AGENT", "", textOfSize(size)))))
 		} else {
 			noneOf(t, two, api.ErrLong)
 		}
@@ -219,7 +219,7 @@ func TestOfAgents(t *testing.T) {
 		}
 	}
 	// as deep as may be
-	of(t, api.Card{Props: []api.Prop{agent("AGENT", agent("AGENT", line("FN:a")))}}, contactOf("AGENT", "", agentText(2)))
+	of(t, api.Card{Props: []api.Prop{agent("AGENT", agent("AGENT", line("FN:a")))}}, sample.Contact("AGENT", "", agentText(2)))
 	noneOf(t, api.Card{Props: []api.Prop{agent("AGENT", agent("AGENT", agent("AGENT", line("FN:a"))))}}, api.ErrDeep)
 }
 
@@ -230,7 +230,7 @@ func cardText(l ...string) string {
 
 // 11.3: texts that are right, however they are written.
 func TestRead(t *testing.T) {
-	want := contactOf("FN", "", "a", "TEL", "HOME;WORK", "1")
+	want := sample.Contact("FN", "", "a", "TEL", "HOME;WORK", "1")
 	for _, s := range []string{
 		cardText("FN:a", "TEL;HOME;WORK:1"), cardText("TEL;WORK;HOME:1", "FN:a"), cardText("fn:a", "tel;work;home:1"), cardText("FN:a", "FN:a", "TEL;HOME;WORK:1", "TEL;WORK;HOME:1"), cardText("FN;8BIT:a", "TEL;HOME;WORK;HOME;HOME:1"),
 		cardText("", "FN;QUOTED-PRINTABLE:=61", "", "TEL;BASE64;WORK;HOME: MQ=="), cardText("FN;CHARSET=UTF-8:a", "TEL;ENCODING=b;HOME;CHARSET=US-ASCII;WORK:", " MQ=="), strings.ToLower(cardText("fn:a", "tel;home;work:1")), strings.ReplaceAll(cardText("FN:a", "TEL;HOME;WORK:1"), "\r\n", "\n"), "\n \n" + cardText("FN:a", "TEL;HOME;WORK:1") + "\n\t\n",
@@ -238,10 +238,10 @@ func TestRead(t *testing.T) {
 		read(t, s, want)
 	}
 	read(t, cardText(), api.Contact{})
-	read(t, cardText("A:b", " c"), contactOf("A", "", "b c"))
-	read(t, cardText("N;CHARSET=ISO-8859-1:\xe9", "N:\xe9"), contactOf("N", "", "\xc3\xa9", "N", "", "\xe9"))
-	read(t, cardText("home.agent;b;A:", "begin:vcard", "version:2.1", "tel:2", "tel:1", "end:vcard", "FN:a"), contactOf("AGENT", "HOME:A;B", text(contactOf("TEL", "", "1", "TEL", "", "2")), "FN", "", "a"))
-	read(t, cardText("N;a;B=c;d;E=f:"), contactOf("N", "A;B=c;D;E=f", ""))
+	read(t, cardText("A:b", " c"), sample.Contact("A", "", "b c"))
+	read(t, cardText("N;CHARSET=ISO-8859-1:\xe9", "N:\xe9"), sample.Contact("N", "", "\xc3\xa9", "N", "", "\xe9"))
+	read(t, cardText("home.agent;b;A:", "begin:vcard", "version:2.1", "tel:2", "tel:1", "end:vcard", "FN:a"), sample.Contact("AGENT", "HOME:A;B", text(sample.Contact("TEL", "", "1", "TEL", "", "2")), "FN", "", "a"))
+	read(t, cardText("N;a;B=c;d;E=f:"), sample.Contact("N", "A;B=c;D;E=f", ""))
 }
 
 // 11.3: each error of vcard.Parse, with its line; Of's, with 0.
@@ -302,7 +302,7 @@ func orders[T any](l []T) [][]T {
 
 // 11.4: the order of a card's properties, and of their parameters, makes no difference, within Agents, too.
 func TestOfOrders(t *testing.T) {
-	c := contactOf("AGENT", "A;B", text(contactOf("AGENT", "", agentText(1), "FN", "", "b", "TEL", "G:HOME;WORK;X=y", "2")), "FN", "", "a", "FN", "", "b", "TEL", "HOME;WORK;X=y;Y", "1", "TEL", "HOME;WORK;X=y;Z", "\xff")
+	c := sample.Contact("AGENT", "A;B", text(sample.Contact("AGENT", "", agentText(1), "FN", "", "b", "TEL", "G:HOME;WORK;X=y", "2")), "FN", "", "a", "FN", "", "b", "TEL", "HOME;WORK;X=y;Y", "1", "TEL", "HOME;WORK;X=y;Z", "\xff")
 	right(t, c)
 	card := cardWords(c)
 	for _, props := range orders(card.Props) {
@@ -393,16 +393,16 @@ func TestReadEachByte(t *testing.T) {
 			if isOwn(s) {
 				want = api.OK
 			}
-			if e := contact.Check(contactOf("AGENT", "", s)); e != want {
+			if e := contact.Check(sample.Contact("AGENT", "", s)); e != want {
 				t.Errorf("Check of an AGENT's text %q: %v, not %v", s, e, want)
 			}
 		}
 	}
 	for _, c := range []api.Contact{
 		{},
-		contactOf("FN", "", "a", "TEL", "G:HOME;WORK", "1"),
-		contactOf("N", "A=b;C", "\xc3\xa9", "N", "D", "\xff"),
-		contactOf("AGENT", "A;B", text(contactOf("FN", "", "b", "FN", "", "c")), "FN", "", "a"),
+		sample.Contact("FN", "", "a", "TEL", "G:HOME;WORK", "1"),
+		sample.Contact("N", "A=b;C", "\xc3\xa9", "N", "D", "\xff"),
+		sample.Contact("AGENT", "A;B", text(sample.Contact("FN", "", "b", "FN", "", "c")), "FN", "", "a"),
 	} {
 		s := text(c)
 		held(s)
@@ -465,7 +465,7 @@ func TestOfListsOfTheirOwn(t *testing.T) {
 	}
 	c := api.Card{Props: append(make([]api.Prop, 0, 8), append([]api.Prop{{Name: "AGENT", Params: params, Agent: append(make([]api.Card, 0, 4), api.Card{Props: props})}}, props...)...)}
 	before := cloned(c)
-	want := contactOf("AGENT", "A;B", text(contactOf("M", "A;B", "1", "N", "A;B", "1", "N", "A;B", "2")), "M", "A;B", "1", "N", "A;B", "1", "N", "A;B", "2")
+	want := sample.Contact("AGENT", "A;B", text(sample.Contact("M", "A;B", "1", "N", "A;B", "1", "N", "A;B", "2")), "M", "A;B", "1", "N", "A;B", "1", "N", "A;B", "2")
 	of(t, c, want)
 	said, _ := contact.Of(c)
 	_ = append(said.Fields, api.Field{Name: "BEHIND"}, api.Field{Name: "BEHIND"})
@@ -502,7 +502,7 @@ func TestCallsEnd(t *testing.T) {
 	const many = 1 << 16
 	for _, b := range strings.Split("\x00\n\r -.09:;=AZaz~\x7f\x80\xc3\xff", "") {
 		s := strings.Repeat(b, many)
-		for _, c := range []api.Contact{contactOf(s, "", ""), contactOf("N", s, ""), contactOf("N", "G:"+s, ""), contactOf("N", "A;"+s, ""), contactOf("N", "A="+s, ""), contactOf("N", "", s), contactOf("AGENT", "", s), contactOf("AGENT", "", s[:mostText]), contactOf("AGENT", "", cardText(s[:500])), contactOf(s, s, s), contactOf(s, s, s, s, s, s)} {
+		for _, c := range []api.Contact{sample.Contact(s, "", ""), sample.Contact("N", s, ""), sample.Contact("N", "G:"+s, ""), sample.Contact("N", "A;"+s, ""), sample.Contact("N", "A="+s, ""), sample.Contact("N", "", s), sample.Contact("AGENT", "", s), sample.Contact("AGENT", "", s[:mostText]), sample.Contact("AGENT", "", cardText(s[:500])), sample.Contact(s, s, s), sample.Contact(s, s, s, s, s, s)} {
 			checked(t, c)
 			same(t, c, c, true)
 			asked(t, c, s+"x", "", false)
@@ -517,8 +517,8 @@ func TestCallsEnd(t *testing.T) {
 	}
 	for _, piece := range []string{"A;", "A=B;", "G:", ";:", "A=", "AGENT:\n"} {
 		s := strings.Repeat(piece, many)
-		wrong(t, contactOf("N", s, ""), api.ErrField)
-		wrong(t, contactOf("N", s[:len(s)-1], ""), api.ErrField)
+		wrong(t, sample.Contact("N", s, ""), api.ErrField)
+		wrong(t, sample.Contact("N", s[:len(s)-1], ""), api.ErrField)
 		stops(t, s, 0, api.ErrLong)
 	}
 	noneOf(t, api.Card{Props: make([]api.Prop, many)}, api.ErrFull)
@@ -532,7 +532,7 @@ func TestCallsEnd(t *testing.T) {
 func TestCheckLongLabel(t *testing.T) {
 	const size = 1 << 24
 	for _, piece := range []string{";", "A;", "A=B;", ":", "="} {
-		c := contactOf("N", strings.Repeat(piece, size/len(piece)), "")
+		c := sample.Contact("N", strings.Repeat(piece, size/len(piece)), "")
 		var before, after runtime.MemStats
 		runtime.ReadMemStats(&before)
 		e := contact.Check(c)

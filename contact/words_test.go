@@ -11,6 +11,7 @@ import (
 	"cardcase/api"
 	"cardcase/contact"
 	"cardcase/prop"
+	"cardcase/sample"
 	"cardcase/vcard"
 )
 
@@ -52,15 +53,6 @@ func valued(head, value string) api.Prop {
 	return p
 }
 
-// contactOf is a contact of names, labels and texts, one behind the other.
-func contactOf(l ...string) api.Contact {
-	var c api.Contact
-	for three := range slices.Chunk(l, 3) {
-		c.Fields = append(c.Fields, api.Field{Name: three[0], Label: three[1], Text: three[2]})
-	}
-	return c
-}
-
 // text is the text of a contact that is right.
 func text(c api.Contact) string {
 	s, e := contact.Text(c)
@@ -72,9 +64,9 @@ func text(c api.Contact) string {
 
 // agentText is the text of a contact within which others lie, so many in all.
 func agentText(count int) string {
-	c := contactOf("FN", "", "a")
+	c := sample.Contact("FN", "", "a")
 	for range count - 1 {
-		c = contactOf("AGENT", "", text(c))
+		c = sample.Contact("AGENT", "", text(c))
 	}
 	return text(c)
 }
@@ -82,11 +74,8 @@ func agentText(count int) string {
 // textOfSize is the text of a contact that has so many bytes, from 345 on.
 func textOfSize(size int) string {
 	// The lines that each card has take 37 bytes, and each field's line 4 beside its text.
-	return text(contactOf("A", "", strings.Repeat("v", 300), "B", "", strings.Repeat("v", size-345)))
+	return text(sample.Contact("A", "", strings.Repeat("v", 300), "B", "", strings.Repeat("v", size-345)))
 }
-
-// copyOf is a contact that shares no list with another.
-func copyOf(c api.Contact) api.Contact { return api.Contact{Fields: slices.Clone(c.Fields)} }
 
 // orderWords is 11.1's Compare said once more.
 func orderWords(a, b api.Field) int {
@@ -241,7 +230,7 @@ func readWords(s string) (api.Contact, int, api.Errno) {
 // wrong holds Check, Card and Text against an error that they must answer.
 func wrong(t *testing.T, c api.Contact, want api.Errno) {
 	t.Helper()
-	before := copyOf(c)
+	before := sample.Copy(c)
 	if e := contact.Check(c); e != want {
 		t.Errorf("Check(%.300q): %v, not %v", c, e, want)
 	}
@@ -259,7 +248,7 @@ func wrong(t *testing.T, c api.Contact, want api.Errno) {
 // right holds Check, Card and Text of a contact that is right against the words, and what is read again of these (11.4).
 func right(t *testing.T, c api.Contact) {
 	t.Helper()
-	before := copyOf(c)
+	before := sample.Copy(c)
 	want := cardWords(c)
 	wantText, _ := vcard.Print(want)
 	if e := contact.Check(c); e != api.OK {

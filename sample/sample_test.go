@@ -98,3 +98,22 @@ func TestRings(t *testing.T) {
 		}
 	}
 }
+
+// Three texts a field, in their order.
+func TestContact(t *testing.T) {
+	if c := sample.Contact(); len(c.Fields) != 0 {
+		t.Errorf("of no texts: %q", c)
+	}
+	c := sample.Contact("B", "", "\xff", "A", "x", "")
+	if !slices.Equal(c.Fields, []api.Field{{Name: "B", Text: "\xff"}, {Name: "A", Label: "x"}}) {
+		t.Errorf("of six texts: %q", c)
+	}
+	other := sample.Copy(c)
+	if !slices.Equal(other.Fields, c.Fields) {
+		t.Errorf("the copy of %q: %q", c, other)
+	}
+	other.Fields[0].Name = "C"
+	if c.Fields[0].Name != "B" {
+		t.Error("a contact and its copy share a list")
+	}
+}
