@@ -1,4 +1,4 @@
-// Package sample makes texts, cards and contacts that the layers' tests are run on; no layer calls it.
+// Package sample makes texts, cards, contacts and elements that the layers' tests are run on; no layer calls it.
 package sample
 
 // Texts are all texts of up to most of these bytes, the shorter ones first.

@@ -99,6 +99,37 @@ func TestRings(t *testing.T) {
 	}
 }
 
+// However often one goes from elements to those right within them, there are some; each call's are apart.
+func TestElemRings(t *testing.T) {
+	if len(sample.ElemRings()) < 10 {
+		t.Errorf("%d elements", len(sample.ElemRings()))
+	}
+	for shape := range sample.ElemRings() {
+		// Some shapes of one call are within one another.
+		e := sample.ElemRings()[shape]
+		level := map[*api.Elem]int{&e: 1}
+		for range 100 {
+			next := map[*api.Elem]int{}
+			for held := range level {
+				for i := range held.Kids {
+					next[&held.Kids[i]]++
+				}
+				if held.Name == "" {
+					t.Errorf("%s: an element without a name", shape)
+				}
+			}
+			level = next
+		}
+		if len(level) == 0 {
+			t.Errorf("%s: no ring", shape)
+		}
+		clear(e.Kids)
+		if again := sample.ElemRings()[shape]; len(again.Kids) == 0 || again.Kids[0].Name == "" {
+			t.Errorf("%s: two calls share a list", shape)
+		}
+	}
+}
+
 // Three texts a field, in their order.
 func TestContact(t *testing.T) {
 	if c := sample.Contact(); len(c.Fields) != 0 {
