@@ -130,6 +130,105 @@ func TestElemRings(t *testing.T) {
 	}
 }
 
+// What letters say is there, in its place.
+func TestElem(t *testing.T) {
+	for letters, want := range map[string]api.Elem{
+		"":             {Name: "Sync"},
+		"x":            {Name: "Sync", Text: "X"},
+		"A":            sample.Node(0, "Sync", sample.Leaf(0, "Add", "")),
+		"AB.C..D":      sample.Node(0, "Sync", sample.Node(0, "Add", sample.Leaf(0, "Size", ""), sample.Leaf(0, "Last", "")), sample.Leaf(0, "DevID", "")),
+		"....A":        sample.Node(0, "Sync", sample.Leaf(0, "Add", "")),
+		"pEv.Fpn<o":    sample.Node(1, "Sync", sample.Leaf(1, "Private", "Private"), sample.Holder(2, "Xn", "<")),
+		"ppp\x00o\xff": {Name: "Sync", Text: "\x00\xff", Opaque: true},
+		"o":            {Name: "Sync"},
+	} {
+		if got := sample.Elem(letters); !sample.SameElem(got, want) {
+			t.Errorf("%q: %v, not %v", letters, got, want)
+		}
+	}
+	if got := sample.Elem("z"); len(got.Text) != 130 {
+		t.Errorf("a long text: %v", got)
+	}
+}
+
+// Elements of each page, with and without a text and kids, and the same ones at each call.
+func TestElems(t *testing.T) {
+	l := sample.Elems(400)
+	if len(l) < 400 || !slices.EqualFunc(l, sample.Elems(400), sample.SameElem) {
+		t.Errorf("%d elements", len(l))
+	}
+	texts, held, bare, deep := 0, 0, 0, 0
+	for _, e := range l {
+		for _, kid := range e.Kids {
+			switch {
+			case len(kid.Kids) > 0:
+				deep++
+			case kid.Opaque:
+				held++
+			case kid.Text != "":
+				texts++
+			default:
+				bare++
+			}
+		}
+	}
+	if min(texts, held, bare, deep) < 40 {
+		t.Errorf("just %d texts, %d of bytes, %d with nothing, %d with kids", texts, held, bare, deep)
+	}
+}
+
+// Two elements are the same if nothing is another one; a copy shares nothing.
+func TestSameElem(t *testing.T) {
+	e := sample.Node(1, "A", sample.Holder(2, "B", "b"), sample.Leaf(0, "C", ""))
+	for what, change := range map[string]func(e *api.Elem){
+		"a page": func(e *api.Elem) { e.Page++ }, "a name": func(e *api.Elem) { e.Name = "D" }, "a text": func(e *api.Elem) { e.Text += "d" },
+		"Opaque": func(e *api.Elem) { e.Opaque = !e.Opaque }, "a kid": func(e *api.Elem) { e.Kids = append(e.Kids, api.Elem{}) },
+	} {
+		for at := range 3 {
+			other := sample.CopyElem(e)
+			if !sample.SameElem(e, other) {
+				t.Fatalf("%v is not %v", other, e)
+			}
+			places := []*api.Elem{&other, &other.Kids[0], &other.Kids[1]}
+			change(places[at])
+			if sample.SameElem(e, other) || sample.SameElem(other, e) {
+				t.Errorf("%s, %d: %v is %v", what, at, other, e)
+			}
+		}
+	}
+	if e.Kids[0].Name != "B" || len(e.Kids[1].Kids) > 0 {
+		t.Errorf("a copy shares a list: %v", e)
+	}
+}
+
+// As many lie within one another as are asked for, the kids within the innermost.
+func TestNest(t *testing.T) {
+	kid := sample.Leaf(2, "K", "k")
+	if got := sample.Nest(1, kid, kid); !sample.SameElem(got, sample.Node(0, "Add", kid, kid)) {
+		t.Errorf("one: %v", got)
+	}
+	if got := sample.Nest(3, kid); !sample.SameElem(got, sample.Node(0, "Add", sample.Node(0, "Add", sample.Node(0, "Add", kid)))) {
+		t.Errorf("three: %v", got)
+	}
+}
+
+// There are some with each error that tree.Check has; each call's are apart.
+func TestWrongElems(t *testing.T) {
+	count := map[api.Errno]int{}
+	for what, one := range sample.WrongElems() {
+		count[one.Wrong]++
+		clear(one.Elem.Kids)
+		if again := sample.WrongElems()[what].Elem; len(again.Kids) > 0 && again.Kids[0].Name == "" {
+			t.Errorf("%s: two calls share a list", what)
+		}
+	}
+	for _, wrong := range []api.Errno{api.ErrDeep, api.ErrFull, api.ErrKind, api.ErrName, api.ErrState, api.ErrLong, api.ErrField} {
+		if count[wrong] == 0 {
+			t.Errorf("none with %v", wrong)
+		}
+	}
+}
+
 // Three texts a field, in their order.
 func TestContact(t *testing.T) {
 	if c := sample.Contact(); len(c.Fields) != 0 {

@@ -92,7 +92,7 @@ func TestAgainMany(t *testing.T) {
 // 15.1: elements of which most are not right.
 func TestWriteWrong(t *testing.T) {
 	for _, letters := range sample.Mixed(3000, 20, []string{"A", "B.", "C", ".", "x", "v", "o", "p", "\x00.", "\xff", "E\x01", "-n", "nnnnnnnnnnnnnnnnn"}) {
-		e := said(letters)
+		e := sample.Elem(letters)
 		want := tree.Check(e)
 		if want == api.OK {
 			again(t, e)

@@ -20,25 +20,15 @@ const (
 	mostDeep = 12
 )
 
-// node is an element with these kids, by no call of the program.
-func node(page int, name string, kids ...api.Elem) api.Elem {
-	return api.Elem{Page: page, Name: name, Kids: kids}
-}
-
-// leaf is an element with this text, by no call of the program.
-func leaf(page int, name, text string) api.Elem {
-	return api.Elem{Page: page, Name: name, Text: text}
-}
-
-// holder is an element with these bytes, Opaque, by no call of the program.
-func holder(page int, name, bytes string) api.Elem {
-	return api.Elem{Page: page, Name: name, Text: bytes, Opaque: true}
-}
-
-// same tells whether two elements are the same.
-func same(a, b api.Elem) bool {
-	return a.Page == b.Page && a.Name == b.Name && a.Text == b.Text && a.Opaque == b.Opaque && slices.EqualFunc(a.Kids, b.Kids, same)
-}
+// Elements by no call of the program.
+var (
+	node   = sample.Node
+	leaf   = sample.Leaf
+	holder = sample.Holder
+	nest   = sample.Nest
+	same   = sample.SameElem
+	copyOf = sample.CopyElem
+)
 
 // all are an element and all within it, each ahead of its kids.
 func all(e api.Elem) []api.Elem {
@@ -47,15 +37,6 @@ func all(e api.Elem) []api.Elem {
 		l = append(l, all(kid)...)
 	}
 	return l
-}
-
-// copyOf is an element that shares no list with another.
-func copyOf(e api.Elem) api.Elem {
-	e.Kids = slices.Clone(e.Kids)
-	for i := range e.Kids {
-		e.Kids[i] = copyOf(e.Kids[i])
-	}
-	return e
 }
 
 // number is a number's bytes.
@@ -331,63 +312,7 @@ func (r *reading) refuse(at int, b byte, isKid bool, e api.Errno) {
 	panic(may)
 }
 
-// said is the element that letters say: A to F begin a kid of what is said around it, by one of six names, the further letters say of it which page it has and what, and a dot is its end.
-func said(letters string) api.Elem {
-	names := []string{"Add", "Size", "Last", "DevID", "Private", "X"}
-	open := []api.Elem{{Name: "Sync"}}
-	end := func() {
-		last := len(open) - 1
-		open[last-1].Kids = append(open[last-1].Kids, open[last])
-		open = open[:last]
-	}
-	for i := range len(letters) {
-		e := &open[len(open)-1]
-		switch b := letters[i]; b {
-		case '.':
-			if len(open) > 1 {
-				end()
-			}
-		case 'p':
-			e.Page = (e.Page + 1) % 3
-		case 'o':
-			e.Opaque = e.Text != ""
-		case 'x':
-			e.Text += "X"
-		case 'v':
-			e.Text += "Private"
-		case 'z':
-			e.Text += strings.Repeat("z", 130)
-		case 'n':
-			e.Name += "n"
-		default:
-			if b >= 'A' && b <= 'F' {
-				open = append(open, api.Elem{Page: e.Page, Name: names[b-'A']})
-				continue
-			}
-			e.Text += letters[i : i+1]
-		}
-	}
-	for len(open) > 1 {
-		end()
-	}
-	return open[0]
-}
-
-// mixed are so many elements of all kinds that are right.
+// mixed are some count elements of all kinds that are right.
 func mixed(count int) []api.Elem {
-	var l []api.Elem
-	for _, pieces := range [][]string{
-		{"A", "B", "C.", "D.", "Ev.", "Fx.", "App.", "Bp.", "Cpabcd.", "Dpabc.", "Eabcd.", "Fabco.", "Abcdo.", ".", "..", "Xn."},
-		{"Ax.", "Bv.", "Cpv.", "Dppv.", "Evo.", "Fppx.", "E.", "Fp.", "Ev", "."},
-		{"An.", "Bn.", "Cnn.", "Dz.", "Ez.", "Fzo.", "Azz.", "Ap", "Bp", "Cpp", "..", "."},
-		{"A", "B", "C", "D", "E", "F", ".", "..", "Ap", "Epp"},
-		{"Aab12.", "Bab12.", "Cab12o.", "Fab13.", "Dab1.", "En.", "Fn", "."},
-	} {
-		for _, letters := range sample.Mixed(count/4, 24, pieces) {
-			if e := said(letters); tree.Check(e) == api.OK {
-				l = append(l, e)
-			}
-		}
-	}
-	return l
+	return slices.DeleteFunc(sample.Elems(count), func(e api.Elem) bool { return tree.Check(e) != api.OK })
 }

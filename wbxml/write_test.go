@@ -36,40 +36,6 @@ func refusesElem(t *testing.T, what string, e api.Elem, want api.Errno) {
 	}
 }
 
-// notRight are elements that tree.Check refuses, with its errors.
-func notRight() map[string]struct {
-	e    api.Elem
-	want api.Errno
-} {
-	type row = struct {
-		e    api.Elem
-		want api.Errno
-	}
-	deep := leaf(0, "Deep", "text")
-	for range mostDeep {
-		deep = node(0, "Deep", deep)
-	}
-	many := node(0, "Sync", slices.Repeat([]api.Elem{node(0, "Many", slices.Repeat([]api.Elem{leaf(0, "Data", "text")}, 199)...)}, 10)...)
-	return map[string]row{
-		"13 deep":              {deep, api.ErrDeep},
-		"2001 elements":        {many, api.ErrFull},
-		"page 3":               {leaf(3, "Page", "text"), api.ErrKind},
-		"page -1":              {leaf(-1, "Page", "text"), api.ErrKind},
-		"page 256":             {leaf(256, "Add", ""), api.ErrKind},
-		"no name":              {leaf(0, "", "text"), api.ErrName},
-		"a name with a nought": {leaf(0, "Add\x00", ""), api.ErrName},
-		"a name of 33":         {leaf(0, strings.Repeat("N", 33), ""), api.ErrName},
-		"201 kids":             {node(0, "Kids", slices.Repeat([]api.Elem{leaf(0, "Kid", "text")}, mostKids+1)...), api.ErrFull},
-		"a text and kids":      {api.Elem{Name: "Both", Text: "text", Kids: []api.Elem{leaf(0, "Kid", "text")}}, api.ErrState},
-		"a text of 4001":       {leaf(0, "Data", strings.Repeat("d", mostText+1)), api.ErrLong},
-		"bytes, 4001":          {holder(0, "Data", strings.Repeat("\x00", mostText+1)), api.ErrLong},
-		"Opaque without bytes": {holder(0, "Nothing", ""), api.ErrField},
-		"a nought":             {leaf(0, "Data", "te\x00xt"), api.ErrField},
-		"no letters":           {leaf(0, "Data", "\xff"), api.ErrField},
-		"a kid, not right":     {node(0, "Around", leaf(0, "Name", "text"), leaf(0, "Name", "text"), leaf(0, "-", "")), api.ErrName},
-	}
-}
-
 // 15.1: the chapter's examples.
 func TestExamples(t *testing.T) {
 	writes(t, "Add", tree.Node(0, "Add"), "\x03\x01\x6a\x00\x05")
@@ -147,14 +113,14 @@ func TestTableOrder(t *testing.T) {
 
 // 15.1: an element that is not right has no table, and no document.
 func TestNotRight(t *testing.T) {
-	for what, one := range notRight() {
-		if got := tree.Check(one.e); got != one.want {
-			t.Fatalf("%s: %v, not %v", what, got, one.want)
+	for what, one := range sample.WrongElems() {
+		if got := tree.Check(one.Elem); got != one.Wrong {
+			t.Fatalf("%s: %v, not %v", what, got, one.Wrong)
 		}
-		tables(t, what, one.e)
-		refusesElem(t, what, one.e, one.want)
-		if one.want != api.ErrDeep {
-			around := node(0, "Any", leaf(0, "Data", "abcd"), leaf(0, "Data", "abcd"), one.e)
+		tables(t, what, one.Elem)
+		refusesElem(t, what, one.Elem, one.Wrong)
+		if one.Wrong != api.ErrDeep {
+			around := node(0, "Any", leaf(0, "Data", "abcd"), leaf(0, "Data", "abcd"), one.Elem)
 			tables(t, what+", within", around)
 			refusesElem(t, what+", within", around, tree.Check(around))
 		}
@@ -241,15 +207,6 @@ func TestWriteNames(t *testing.T) {
 	writes(t, "two names", node(0, "One", leaf(0, "Two", ""), leaf(0, "One", "")), doc("One\x00Two\x00", "\x44\x00\x04\x04\x04\x00\x01"))
 	writes(t, "12 deep", nest(mostDeep), doc("", strings.Repeat("\x45", mostDeep-1)+"\x05"+strings.Repeat("\x01", mostDeep-1)))
 	writes(t, "200 kids", node(0, "Sync", slices.Repeat([]api.Elem{kid}, mostKids)...), doc("", "\x6a"+strings.Repeat("\x05", mostKids)+"\x01"))
-}
-
-// nest are so many elements within one another, the innermost of which has these kids.
-func nest(count int, kids ...api.Elem) api.Elem {
-	e := node(0, "Add", kids...)
-	for range count - 1 {
-		e = node(0, "Add", e)
-	}
-	return e
 }
 
 // 15.1: a text as it stands, one in the table, one that is Opaque.
